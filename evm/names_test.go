@@ -1,0 +1,84 @@
+package evm_test
+
+// op: an opcode by its name.
+type op byte
+
+const (
+	STOP           op = 0x00
+	ADD            op = 0x01
+	MUL            op = 0x02
+	SUB            op = 0x03
+	DIV            op = 0x04
+	SDIV           op = 0x05
+	MOD            op = 0x06
+	SMOD           op = 0x07
+	ADDMOD         op = 0x08
+	MULMOD         op = 0x09
+	EXP            op = 0x0a
+	SIGNEXTEND     op = 0x0b
+	LT             op = 0x10
+	GT             op = 0x11
+	SLT            op = 0x12
+	SGT            op = 0x13
+	EQ             op = 0x14
+	ISZERO         op = 0x15
+	AND            op = 0x16
+	OR             op = 0x17
+	XOR            op = 0x18
+	NOT            op = 0x19
+	BYTE           op = 0x1a
+	SHL            op = 0x1b
+	SHR            op = 0x1c
+	SAR            op = 0x1d
+	KECCAK256      op = 0x20
+	ADDRESS        op = 0x30
+	BALANCE        op = 0x31
+	ORIGIN         op = 0x32
+	CALLER         op = 0x33
+	CALLVALUE      op = 0x34
+	CALLDATALOAD   op = 0x35
+	CALLDATASIZE   op = 0x36
+	CALLDATACOPY   op = 0x37
+	CODESIZE       op = 0x38
+	CODECOPY       op = 0x39
+	GASPRICE       op = 0x3a
+	EXTCODESIZE    op = 0x3b
+	EXTCODECOPY    op = 0x3c
+	RETURNDATASIZE op = 0x3d
+	RETURNDATACOPY op = 0x3e
+	EXTCODEHASH    op = 0x3f
+	COINBASE       op = 0x41
+	TIMESTAMP      op = 0x42
+	NUMBER         op = 0x43
+	GASLIMIT       op = 0x45
+	CHAINID        op = 0x46
+	SELFBALANCE    op = 0x47
+	BASEFEE        op = 0x48
+	POP            op = 0x50
+	MLOAD          op = 0x51
+	MSTORE         op = 0x52
+	MSTORE8        op = 0x53
+	SLOAD          op = 0x54
+	SSTORE         op = 0x55
+	JUMP           op = 0x56
+	JUMPI          op = 0x57
+	PC             op = 0x58
+	MSIZE          op = 0x59
+	GAS            op = 0x5a
+	JUMPDEST       op = 0x5b
+	PUSH0          op = 0x5f
+	PUSH1          op = 0x60
+	PUSH2          op = 0x61
+	PUSH32         op = 0x7f
+	DUP1           op = 0x80
+	SWAP1          op = 0x90
+	LOG0           op = 0xa0
+	CREATE         op = 0xf0
+	CALL           op = 0xf1
+	RETURN         op = 0xf3
+	DELEGATECALL   op = 0xf4
+	CREATE2        op = 0xf5
+	STATICCALL     op = 0xfa
+	REVERT         op = 0xfd
+	INVALID        op = 0xfe
+)
